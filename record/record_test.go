@@ -11,6 +11,7 @@ import (
 	"unsafe"
 
 	"loess/api"
+	"loess/fresh"
 )
 
 // goodKeys may be, up to the last byte that fits.
@@ -180,7 +181,7 @@ func TestEq(t *testing.T) {
 		t.Error("keys of the same runes are the same")
 	}
 	for _, r := range l {
-		if !Eq(r, fresh(r)) {
+		if !Eq(r, fresh.Rec(r)) {
 			t.Errorf("%.60v is not the same in other memory", r)
 		}
 	}
